@@ -6,6 +6,7 @@ import (
 
 	"portolan/api"
 	"portolan/flow"
+	"portolan/sample"
 	"portolan/shape"
 )
 
@@ -81,7 +82,7 @@ func writtenOut() []written {
 // P5.1: all calls, of functions that are written out.
 func TestWrittenOut(t *testing.T) {
 	for _, x := range writtenOut() {
-		f := x.l.function()
+		f := x.l.Function()
 		for b := range x.l {
 			list(t, x.l, "Next", flow.Next(f, b), x.next[b])
 			list(t, x.l, "Prev", flow.Prev(f, b), x.prev[b])
@@ -114,33 +115,33 @@ func TestOrder(t *testing.T) {
 		{ends{{1, 5}, {2, 4}, {3}, nil, {3}, {4, 2}}, []int{0, 5, 1, 4, 2, 3}},
 		{ends{{4}, {3}, {1}, {4, 2}, {5, 3}, nil}, []int{0, 4, 5, 3, 2, 1}},
 	} {
-		list(t, x.l, "Order", flow.Order(x.l.function()), x.want)
+		list(t, x.l, "Order", flow.Order(x.l.Function()), x.want)
 	}
 	rising := make([]int, 40)
 	for b := range rising {
 		rising[b] = b
 	}
-	for _, l := range []ends{chain(40), round(40), rungs(40)} {
-		list(t, l, "Order", flow.Order(l.function()), rising)
+	for _, l := range []ends{sample.Chain(40), sample.Round(40), sample.Rungs(40)} {
+		list(t, l, "Order", flow.Order(l.Function()), rising)
 	}
 }
 
 // P5.1: all calls, of all small functions and many others, by a model apart from the package.
 func TestModel(t *testing.T) {
-	for _, l := range samples() {
-		f := l.function()
+	for _, l := range sample.Many() {
+		f := l.Function()
 		if shape.Check(api.Prog{Funcs: []api.Func{f}}) != api.OK {
 			t.Fatalf("%v makes no program", l)
 		}
 		for b := range l {
-			list(t, l, "Next", flow.Next(f, b), l.next(b))
-			list(t, l, "Prev", flow.Prev(f, b), l.prev(b))
+			list(t, l, "Next", flow.Next(f, b), next(l, b))
+			list(t, l, "Prev", flow.Prev(f, b), prev(l, b))
 		}
-		list(t, l, "Edges", flow.Edges(f), l.edges())
-		list(t, l, "Reach", flow.Reach(f), l.reach())
-		list(t, l, "Order", flow.Order(f), l.order())
-		if n := flow.Size(f); n != l.size() {
-			t.Errorf("Size of %s = %d; want %d", shown(l), n, l.size())
+		list(t, l, "Edges", flow.Edges(f), edges(l))
+		list(t, l, "Reach", flow.Reach(f), l.Reach())
+		list(t, l, "Order", flow.Order(f), order(l))
+		if n := flow.Size(f); n != size(l) {
+			t.Errorf("Size of %s = %d; want %d", shown(l), n, size(l))
 		}
 		if t.Failed() {
 			t.FailNow()
@@ -150,9 +151,9 @@ func TestModel(t *testing.T) {
 
 // P5.1: blocks that aren't there.
 func TestNoBlock(t *testing.T) {
-	for _, l := range []ends{{nil}, diamond(), round(5), chain(40), round(40)} {
-		f := l.function()
-		for _, b := range append(far(), len(l), len(l)+1) {
+	for _, l := range []ends{{nil}, diamond(), sample.Round(5), sample.Chain(40), sample.Round(40)} {
+		f := l.Function()
+		for _, b := range append(sample.Far(), len(l), len(l)+1) {
 			if b >= 0 && b < len(l) {
 				continue
 			}
@@ -176,13 +177,13 @@ func TestSize(t *testing.T) {
 
 // P5.2: the order has what is reached, each once, 0 first; where there is no way back over an edge, it leads onward.
 func TestOnward(t *testing.T) {
-	for _, l := range samples() {
-		order, ways := flow.Order(l.function()), l.ways()
+	for _, l := range sample.Many() {
+		order, ways := flow.Order(l.Function()), ways(l)
 		sorted := slices.Sorted(slices.Values(order))
-		if order[0] != 0 || !slices.Equal(sorted, l.reach()) {
+		if order[0] != 0 || !slices.Equal(sorted, l.Reach()) {
 			t.Fatalf("Order of %s = %v", shown(l), order)
 		}
-		for _, e := range l.edges() {
+		for _, e := range edges(l) {
 			from, to := slices.Index(order, e.From), slices.Index(order, e.To)
 			if from >= 0 && !ways[e.To][e.From] && from >= to {
 				t.Fatalf("Order of %s = %v: %v leads back", shown(l), order, e)

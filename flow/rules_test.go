@@ -8,6 +8,7 @@ import (
 
 	"portolan/api"
 	"portolan/flow"
+	"portolan/sample"
 )
 
 // answers is what all calls answer.
@@ -53,8 +54,8 @@ func (a answers) spoil() {
 
 // P5.1, and rules 5 and 6 of P1: answers are new memory, share none with one another, and each call answers the same again.
 func TestNewMemory(t *testing.T) {
-	for _, l := range append(every(3), diamond(), round(9), rungs(40)) {
-		f := l.function()
+	for _, l := range append(sample.Every(3), diamond(), sample.Round(9), sample.Rungs(40)) {
+		f := l.Function()
 		first, second := ask(f), ask(f)
 		want := first.copied()
 		if !reflect.DeepEqual(second.copied(), want) {
@@ -73,60 +74,28 @@ func TestNewMemory(t *testing.T) {
 	}
 }
 
-// roomy is a function with spare room, which is marked, behind each list.
-func roomy(f api.Func) api.Func {
-	f.Kinds, f.Base = room(f.Kinds, 77), room(f.Base, 77)
-	blocks := room(f.Blocks, api.Block{Code: []api.Ins{{Op: 77}}})
-	for b := range blocks {
-		blocks[b].Code = room(blocks[b].Code, api.Ins{Op: 21, N: 77})
-	}
-	f.Blocks = blocks
-	return f
-}
-
-// room is a list of its own memory, behind which x stands in spare room.
-func room[T any](l []T, x T) []T {
-	return append(slices.Clone(l), x)[:len(l)]
-}
-
-// whole is a copy of a roomy function, with what stands in its spare room.
-func whole(f api.Func) api.Func {
-	f.Kinds, f.Base = spare(f.Kinds), spare(f.Base)
-	blocks := spare(f.Blocks)
-	for b := range len(blocks) - 1 {
-		blocks[b].Code = spare(blocks[b].Code)
-	}
-	f.Blocks = blocks
-	return f
-}
-
-// spare is a copy of a list, and of what stands in the spare room that room made.
-func spare[T any](l []T) []T {
-	return slices.Clone(l[:len(l)+1])
-}
-
 // P5.1, and rule 5 of P1: what is handed in stays as it was, its spare room, too, and what stands there is not read.
 func TestStays(t *testing.T) {
-	for _, l := range append(every(3), diamond(), round(9), rungs(40)) {
-		f := roomy(l.function())
-		before, want := whole(f), ask(l.function())
+	for _, l := range append(sample.Every(3), diamond(), sample.Round(9), sample.Rungs(40)) {
+		f := sample.Roomy(l.Function())
+		before, want := sample.Whole(f), ask(l.Function())
 		if a := ask(f); !reflect.DeepEqual(a.copied(), want.copied()) {
 			t.Errorf("%s answers %v", shown(l), a)
 		}
-		for _, b := range far() {
+		for _, b := range sample.Far() {
 			flow.Next(f, b)
 			flow.Prev(f, b)
 		}
-		if !reflect.DeepEqual(whole(f), before) {
-			t.Errorf("%s became %s", shown(before), shown(whole(f)))
+		if !reflect.DeepEqual(sample.Whole(f), before) {
+			t.Errorf("%s became %s", shown(before), shown(sample.Whole(f)))
 		}
 	}
 }
 
 // P5.1: answers hang on the blocks alone.
 func TestBlocksAlone(t *testing.T) {
-	for _, l := range []ends{{nil}, diamond(), round(9), rungs(40)} {
-		f := l.function()
+	for _, l := range []ends{{nil}, diamond(), sample.Round(9), sample.Rungs(40)} {
+		f := l.Function()
 		g := api.Func{Kinds: []int{1, 1, 0, 0, 2}, Base: []int{-1, -1, -1, -1, 0}, Params: 3, Result: 1, Blocks: f.Blocks}
 		if a, b := ask(f), ask(g); !reflect.DeepEqual(a, b) {
 			t.Errorf("%s answers %v; of other variables %v", shown(l), a, b)
@@ -136,7 +105,7 @@ func TestBlocksAlone(t *testing.T) {
 
 // Rule 1 of P1: calls end and don't panic, also at functions that may not be, of which nothing else is promised.
 func TestAnything(t *testing.T) {
-	numbers := append(far(), 0, 1, 2, 3, math.MaxInt-1)
+	numbers := append(sample.Far(), 0, 1, 2, 3, math.MaxInt-1)
 	for _, n := range numbers {
 		for _, m := range numbers {
 			for op := -1; op < 30; op++ {
@@ -160,9 +129,9 @@ func TestAnything(t *testing.T) {
 
 // Rule 1 of P1: calls end, however many blocks there are.
 func TestMany(t *testing.T) {
-	for _, l := range []ends{chain(1 << 18), round(1 << 18), rungs(1 << 18)} {
-		f := l.function()
-		if n := len(flow.Order(f)); n != len(l) || len(flow.Reach(f)) != n || len(flow.Edges(f)) < n-1 || flow.Size(f) != l.size() {
+	for _, l := range []ends{sample.Chain(1 << 18), sample.Round(1 << 18), sample.Rungs(1 << 18)} {
+		f := l.Function()
+		if n := len(flow.Order(f)); n != len(l) || len(flow.Reach(f)) != n || len(flow.Edges(f)) < n-1 || flow.Size(f) != size(l) {
 			t.Errorf("%d of %d blocks are reached", n, len(l))
 		}
 		flow.Prev(f, len(l)-1)
