@@ -19,9 +19,7 @@ func modelOf(l ends) model {
 	m := make(model, len(l))
 	for a := range l {
 		m[a] = make([]bool, len(l))
-		cut := slices.Clone(l)
-		cut[a] = nil
-		rest := cut.Reach()
+		rest := l.Cut(a).Reach()
 		for _, b := range reach {
 			m[a][b] = a == b || slices.Contains(reach, a) && !slices.Contains(rest, b)
 		}

@@ -139,7 +139,7 @@ func TestModel(t *testing.T) {
 		}
 		list(t, l, "Edges", flow.Edges(f), edges(l))
 		list(t, l, "Reach", flow.Reach(f), l.Reach())
-		list(t, l, "Order", flow.Order(f), order(l))
+		list(t, l, "Order", flow.Order(f), l.Order())
 		if n := flow.Size(f); n != size(l) {
 			t.Errorf("Size of %s = %d; want %d", shown(l), n, size(l))
 		}

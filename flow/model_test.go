@@ -66,24 +66,6 @@ func ways(l ends) [][]bool {
 	return w
 }
 
-// order is the order of a walk, as the chapter tells it: whoever is left stands ahead of all that were left.
-func order(l ends) []int {
-	var out []int
-	met := map[int]bool{}
-	var walk func(b int)
-	walk = func(b int) {
-		met[b] = true
-		for n := range l {
-			if leads(l, b, n) && !met[n] {
-				walk(n)
-			}
-		}
-		out = append([]int{b}, out...)
-	}
-	walk(0)
-	return out
-}
-
 // shown is the beginning of what is told of a fault.
 func shown(x any) string {
 	s := fmt.Sprint(x)

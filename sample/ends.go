@@ -1,7 +1,11 @@
 // Package sample makes functions for tests, of where their blocks lead. No layer stands on it.
 package sample
 
-import "portolan/api"
+import (
+	"slices"
+
+	"portolan/api"
+)
 
 // Ends has for each block what it leads to, as its last instruction has it: no number (OpReturn), one (OpJump), or two (OpBranch).
 type Ends [][]int
@@ -41,18 +45,47 @@ func (l Ends) Where(holds func(b int) bool) []int {
 	return out
 }
 
-// Reach is the blocks that are reached, rising: from the first one on, as long as one more is met.
-func (l Ends) Reach() []int {
+// From is the blocks that there is a way to from b, rising: b itself, and what is met as long as one more is.
+func (l Ends) From(b int) []int {
 	met := make([]bool, len(l))
-	met[0] = true
-	for more := true; more; {
-		more = false
-		for b, to := range l {
-			for _, n := range to {
-				more = more || met[b] && !met[n]
-				met[n] = met[n] || met[b]
+	met[b] = true
+	for open := []int{b}; len(open) > 0; open = open[1:] {
+		for _, n := range l[open[0]] {
+			if !met[n] {
+				met[n] = true
+				open = append(open, n)
 			}
 		}
 	}
 	return l.Where(func(b int) bool { return met[b] })
+}
+
+// Reach is the blocks that are reached, rising.
+func (l Ends) Reach() []int {
+	return l.From(0)
+}
+
+// Cut is the same blocks, where nothing leads on from b.
+func (l Ends) Cut(b int) Ends {
+	cut := slices.Clone(l)
+	cut[b] = nil
+	return cut
+}
+
+// Order is the order of a walk, as layer 5's chapter tells it: whoever is left stands ahead of all that were left.
+func (l Ends) Order() []int {
+	var out []int
+	met := map[int]bool{}
+	var walk func(b int)
+	walk = func(b int) {
+		met[b] = true
+		for n := range l {
+			if slices.Contains(l[b], n) && !met[n] {
+				walk(n)
+			}
+		}
+		out = append([]int{b}, out...)
+	}
+	walk(0)
+	return out
 }

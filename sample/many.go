@@ -47,7 +47,7 @@ func Great() []Ends {
 // Most is functions of as many blocks as there may be.
 func Most() []Ends {
 	d := dice(6)
-	return []Ends{d.anywhere(40), d.onward(40), d.near(40, 2), d.near(40, 4), Chain(40), Round(40), Rungs(40)}
+	return []Ends{d.anywhere(40), d.onward(40), d.near(40, 2), d.near(40, 4), Chain(40), Round(40), Rungs(40), Nest(40)}
 }
 
 // Chain is blocks of which each one leads to the one behind it.
@@ -71,6 +71,15 @@ func Rungs(n int) Ends {
 	l := Chain(n)
 	for b := range n - 2 {
 		l[b] = []int{b + 1, b + 2}
+	}
+	return l
+}
+
+// Nest is ways round within one another: the blocks of the first half but 0 are their heads, those of the second one lead back to them, the innermost one first. n is even.
+func Nest(n int) Ends {
+	l := Chain(n)
+	for b := n / 2; b < n-1; b++ {
+		l[b] = []int{n - 1 - b, b + 1}
 	}
 	return l
 }
