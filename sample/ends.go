@@ -1,4 +1,4 @@
-// Package sample makes functions for tests, of where their blocks lead. No layer stands on it.
+// Package sample makes functions and programs for tests. No layer stands on it.
 package sample
 
 import (

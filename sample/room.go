@@ -17,10 +17,23 @@ func Roomy(f api.Func) api.Func {
 	f.Kinds, f.Base = room(f.Kinds, 77), room(f.Base, 77)
 	blocks := room(f.Blocks, api.Block{Code: []api.Ins{{Op: 77}}})
 	for b := range blocks {
-		blocks[b].Code = room(blocks[b].Code, api.Ins{Op: 21, N: 77})
+		code := room(blocks[b].Code, api.Ins{Op: 21, N: 77})
+		for i := range code {
+			code[i].Args = room(code[i].Args, 77)
+		}
+		blocks[b].Code = code
 	}
 	f.Blocks = blocks
 	return f
+}
+
+// RoomyProgram is a program with spare room, which is marked, behind each list.
+func RoomyProgram(p api.Prog) api.Prog {
+	funcs := room(p.Funcs, api.Func{Params: 77})
+	for n := range funcs {
+		funcs[n] = Roomy(funcs[n])
+	}
+	return api.Prog{Funcs: funcs}
 }
 
 // room is a list of its own memory, behind which x stands in spare room.
@@ -33,10 +46,23 @@ func Whole(f api.Func) api.Func {
 	f.Kinds, f.Base = spare(f.Kinds), spare(f.Base)
 	blocks := spare(f.Blocks)
 	for b := range len(blocks) - 1 {
-		blocks[b].Code = spare(blocks[b].Code)
+		code := spare(blocks[b].Code)
+		for i := range len(code) - 1 {
+			code[i].Args = spare(code[i].Args)
+		}
+		blocks[b].Code = code
 	}
 	f.Blocks = blocks
 	return f
+}
+
+// WholeProgram is a copy of a roomy program, with what stands in its spare room.
+func WholeProgram(p api.Prog) api.Prog {
+	funcs := spare(p.Funcs)
+	for n := range len(funcs) - 1 {
+		funcs[n] = Whole(funcs[n])
+	}
+	return api.Prog{Funcs: funcs}
 }
 
 // spare is a copy of a list, and of what stands in the spare room that room made.

@@ -6,52 +6,9 @@ import (
 	"testing"
 
 	"portolan/api"
+	"portolan/sample"
 	"portolan/shape"
 )
-
-// room is a list of its own memory, behind which x stands in spare room.
-func room[T any](l []T, x T) []T {
-	return append(slices.Clone(l), x)[:len(l)]
-}
-
-// spare is a list, and behind it what stands in the spare room that room made.
-func spare[T any](l []T) []T {
-	return slices.Clone(l[:len(l)+1])
-}
-
-// roomy is a program whose lists all have spare room, which is marked.
-func roomy(p api.Prog) api.Prog {
-	q := api.Prog{Funcs: room(p.Funcs, api.Func{Params: 77})}
-	for i, f := range p.Funcs {
-		q.Funcs[i].Kinds, q.Funcs[i].Base = room(f.Kinds, 77), room(f.Base, 77)
-		blocks := room(f.Blocks, api.Block{Code: []api.Ins{{Op: 77}}})
-		for j, b := range f.Blocks {
-			blocks[j].Code = room(b.Code, api.Ins{Op: 77})
-			for k, x := range b.Code {
-				blocks[j].Code[k].Args = room(x.Args, 77)
-			}
-		}
-		q.Funcs[i].Blocks = blocks
-	}
-	return q
-}
-
-// whole is a roomy program, and what stands in its spare room, too.
-func whole(p api.Prog) api.Prog {
-	q := api.Prog{Funcs: spare(p.Funcs)}
-	for i, f := range p.Funcs {
-		q.Funcs[i].Kinds, q.Funcs[i].Base = spare(f.Kinds), spare(f.Base)
-		blocks := spare(f.Blocks)
-		for j, b := range f.Blocks {
-			blocks[j].Code = spare(b.Code)
-			for k, x := range b.Code {
-				blocks[j].Code[k].Args = spare(x.Args)
-			}
-		}
-		q.Funcs[i].Blocks = blocks
-	}
-	return q
-}
 
 // ask makes each call of a program, and of all in it.
 func ask(p api.Prog) {
@@ -72,11 +29,11 @@ func ask(p api.Prog) {
 // P4.1, and rule 5 of P1: what is handed in stays as it was, its spare room, too.
 func TestStays(t *testing.T) {
 	for _, p := range append(programs(), mixed()) {
-		q := roomy(p)
-		before := whole(q)
+		q := sample.RoomyProgram(p)
+		before := sample.WholeProgram(q)
 		ask(q)
-		if !reflect.DeepEqual(whole(q), before) {
-			t.Errorf("%s became %s", shown(before), shown(whole(q)))
+		if !reflect.DeepEqual(sample.WholeProgram(q), before) {
+			t.Errorf("%s became %s", shown(before), shown(sample.WholeProgram(q)))
 		}
 	}
 }
