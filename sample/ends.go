@@ -1,4 +1,4 @@
-// Package sample makes functions and programs for tests. No layer stands on it.
+// Package sample makes functions, programs and heaps for tests. No layer stands on it.
 package sample
 
 import (

@@ -36,6 +36,15 @@ func RoomyProgram(p api.Prog) api.Prog {
 	return api.Prog{Funcs: funcs}
 }
 
+// RoomyHeap is a heap with spare room, which is marked, behind each list.
+func RoomyHeap(h api.Heap) api.Heap {
+	objs := room(h.Objs, api.Obj{Refs: []int{77}, Ints: []int{77}})
+	for i, o := range objs {
+		objs[i] = api.Obj{Refs: room(o.Refs, 77), Ints: room(o.Ints, 77)}
+	}
+	return api.Heap{Objs: objs}
+}
+
 // room is a list of its own memory, behind which x stands in spare room.
 func room[T any](l []T, x T) []T {
 	return append(slices.Clone(l), x)[:len(l)]
@@ -63,6 +72,15 @@ func WholeProgram(p api.Prog) api.Prog {
 		funcs[n] = Whole(funcs[n])
 	}
 	return api.Prog{Funcs: funcs}
+}
+
+// WholeHeap is a copy of a roomy heap, with what stands in its spare room.
+func WholeHeap(h api.Heap) api.Heap {
+	objs := spare(h.Objs)
+	for i, o := range objs[:len(h.Objs)] {
+		objs[i] = api.Obj{Refs: spare(o.Refs), Ints: spare(o.Ints)}
+	}
+	return api.Heap{Objs: objs}
 }
 
 // spare is a copy of a list, and of what stands in the spare room that room made.
