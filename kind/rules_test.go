@@ -52,19 +52,13 @@ func (a answers) same(b answers) bool {
 
 // copied is answers of their own memory.
 func (a answers) copied() answers {
-	a.sets = slices.Clone(a.sets)
-	for i := range a.sets {
-		a.sets[i] = slices.Clone(a.sets[i])
-	}
+	a.sets = sample.Copied(a.sets)
 	return a
 }
 
 // spoil writes into a set, and into its spare room.
 func spoil(s []uint64) {
-	s = s[:cap(s)]
-	for i := range s {
-		s[i] = 0x5555
-	}
+	sample.Spoil(s, 0x5555)
 }
 
 // P8.1, and rules 5 and 6 of P1: answers are new memory, share none with one another, and each call answers the same again.
@@ -157,15 +151,9 @@ func TestOneWay(t *testing.T) {
 // P8.1, and rule 4 of P1: lists without anything may be nil or empty.
 func TestEmpty(t *testing.T) {
 	for _, p := range few() {
-		q := sample.RoomyProgram(p)
-		for _, f := range q.Funcs {
-			for _, b := range f.Blocks {
-				for i := range b.Code {
-					if len(b.Code[i].Args) == 0 {
-						b.Code[i].Args = nil
-					}
-				}
-			}
+		q := api.Prog{Funcs: slices.Clone(p.Funcs)}
+		for n, f := range q.Funcs {
+			q.Funcs[n] = sample.Bare(f)
 		}
 		if !ask(q).same(ask(p)) {
 			t.Errorf("%s isn't as with lists without anything", shown(p))

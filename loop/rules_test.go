@@ -107,11 +107,8 @@ func TestStays(t *testing.T) {
 func TestBlocksAlone(t *testing.T) {
 	for _, l := range some() {
 		f := l.Function()
-		g := api.Func{Kinds: []int{1, 1, 0, 0, 2}, Base: []int{-1, -1, -1, -1, 0}, Params: 3, Result: 1}
-		for _, b := range f.Blocks {
-			code := slices.Insert(slices.Clone(b.Code), len(b.Code)-1, api.Ins{Op: api.OpPoll})
-			g.Blocks = append(g.Blocks, api.Block{Code: code})
-		}
+		g := sample.Polled(f)
+		g.Kinds, g.Base, g.Params, g.Result = []int{1, 1, 0, 0, 2}, []int{-1, -1, -1, -1, 0}, 3, 1
 		if a, b := ask(f), ask(g); !a.same(b) {
 			t.Errorf("%v answers %s; of other code %s", l, shown(a), shown(b))
 		}

@@ -89,3 +89,14 @@ func (l Ends) Order() []int {
 	walk(0)
 	return out
 }
+
+// Polled is a function with an OpPoll ahead of the last instruction of each block that has room for it, as layer 14 lays them on ways back.
+func Polled(f api.Func) api.Func {
+	f.Blocks = slices.Clone(f.Blocks)
+	for b, x := range f.Blocks {
+		if n := len(x.Code); n < api.MaxCode {
+			f.Blocks[b].Code = slices.Insert(slices.Clone(x.Code), n-1, api.Ins{Op: api.OpPoll})
+		}
+	}
+	return f
+}

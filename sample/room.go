@@ -27,6 +27,19 @@ func Roomy(f api.Func) api.Func {
 	return f
 }
 
+// Bare is a function alike, whose instructions' lists are nil where they hold nothing.
+func Bare(f api.Func) api.Func {
+	f = Roomy(f)
+	for _, b := range f.Blocks {
+		for i, x := range b.Code {
+			if len(x.Args) == 0 {
+				b.Code[i].Args = nil
+			}
+		}
+	}
+	return f
+}
+
 // RoomyProgram is a program with spare room, which is marked, behind each list.
 func RoomyProgram(p api.Prog) api.Prog {
 	funcs := room(p.Funcs, api.Func{Params: 77})
