@@ -69,12 +69,8 @@ func TestNewMemory(t *testing.T) {
 		if !second.same(want) {
 			t.Fatalf("%s answers %v, then %v", shown(p), want, second)
 		}
-		for i, s := range second.sets {
-			spoil(s)
-			want := want.sets[i+1:]
-			if !slices.EqualFunc(second.sets[i+1:], want, slices.Equal) {
-				t.Fatalf("%s: answers share memory", shown(p))
-			}
+		if !sample.Apart(second.sets, 0x5555) {
+			t.Fatalf("%s: answers share memory", shown(p))
 		}
 		if !first.same(want) || !ask(p).same(want) {
 			t.Fatalf("%s: answers share memory with what is kept", shown(p))

@@ -13,56 +13,9 @@ import (
 	"portolan/shape"
 )
 
-// What instructions do with a variable first.
-const (
-	neither = iota
-	asks
-	sets
-)
-
-// first is what instructions that follow one another do with v first.
-func first(l []api.Ins, v int) int {
-	for _, x := range l {
-		if slices.Contains(shape.Uses(x), v) {
-			return asks
-		}
-		if d, ok := shape.Sets(x); ok && d == v {
-			return sets
-		}
-	}
-	return neither
-}
-
-// isLive tells, apart from the package, whether v is: by going all ways from a place on, each as far as something is done with v.
-func isLive(f api.Func, from api.Place, v int) bool {
-	met := make([]bool, len(f.Blocks))
-	for open := []api.Place{from}; len(open) > 0; open = open[1:] {
-		l := f.Blocks[open[0].Block].Code
-		switch first(l[open[0].At:], v) {
-		case asks:
-			return true
-		case sets:
-			continue
-		}
-		for _, n := range shape.Next(l[len(l)-1]) {
-			if !met[n] {
-				met[n] = true
-				open = append(open, api.Place{Block: n})
-			}
-		}
-	}
-	return false
-}
-
-// lives is all variables that are live at a place.
+// lives is all variables that are live at a place, by a model apart from the package.
 func lives(f api.Func, p api.Place) []uint64 {
-	var l []int
-	for v := range f.Kinds {
-		if isLive(f, p, v) {
-			l = append(l, v)
-		}
-	}
-	return bitset.Of(l...)
+	return bitset.Of(sample.Lives(f, p)...)
 }
 
 // modelled asks for what is live at a function's places: of a small one at each, of others at the ends of each block, and at each place of one of them.

@@ -56,11 +56,8 @@ func TestNewMemory(t *testing.T) {
 		if !second.same(want) {
 			t.Fatalf("%s answers %v, then %v", shown(f), want, second)
 		}
-		for i, s := range second.sets {
-			sample.Spoil(s, 0x5555)
-			if rest := want.sets[i+1:]; !slices.EqualFunc(second.sets[i+1:], rest, slices.Equal) {
-				t.Fatalf("%s: answers share memory", shown(f))
-			}
+		if !sample.Apart(second.sets, 0x5555) {
+			t.Fatalf("%s: answers share memory", shown(f))
 		}
 		if !first.same(want) || !asked(f).same(want) {
 			t.Fatalf("%s: answers share memory with what is kept", shown(f))

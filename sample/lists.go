@@ -18,3 +18,15 @@ func Spoil[T any](l []T, x T) {
 		l[i] = x
 	}
 }
+
+// Apart tells whether lists share no memory: x is written all over one after the other, and the others stay as they were.
+func Apart[T comparable](lists [][]T, x T) bool {
+	want := Copied(lists)
+	for i, l := range lists {
+		Spoil(l, x)
+		if !slices.EqualFunc(lists[i+1:], want[i+1:], slices.Equal) {
+			return false
+		}
+	}
+	return true
+}
