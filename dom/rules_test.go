@@ -140,9 +140,7 @@ func TestAnything(t *testing.T) {
 	for _, n := range numbers {
 		for _, m := range numbers {
 			for op := 20; op < 25; op++ {
-				x := api.Ins{Op: op, D: n, A: m, B: n, N: n, M: m, Args: []int{n, m}}
-				y := api.Ins{Op: op, N: m, M: n}
-				every(api.Func{Kinds: []int{n}, Params: m, Blocks: []api.Block{{Code: []api.Ins{x}}, {}, {Code: []api.Ins{y, x}}, {Code: []api.Ins{x, y}}}}, []int{n, m, 0, 3})
+				every(sample.Odd(op, n, m), []int{n, m, 0, 3})
 			}
 		}
 	}

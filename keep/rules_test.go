@@ -143,9 +143,7 @@ func TestAnything(t *testing.T) {
 	for _, n := range numbers {
 		for _, m := range numbers {
 			for op := -1; op < 30; op++ {
-				x := api.Ins{Op: op, D: n, A: m, B: n, N: n, M: m, Args: []int{n, m}}
-				y := api.Ins{Op: op, D: m, A: n, N: m, M: n}
-				f := api.Func{Kinds: []int{n, 2, 1, 2}, Base: []int{m, n}, Params: m, Blocks: []api.Block{{Code: []api.Ins{x}}, {}, {Code: []api.Ins{y, x}}, {Code: []api.Ins{x, y}}}}
+				f := sample.Odd(op, n, m)
 				asked(f)
 				keep.Across(f, n, m)
 				keep.Across(f, 2, n)

@@ -71,30 +71,13 @@ func TestAgain(t *testing.T) {
 	}
 }
 
-// wipe writes into all that a program has.
-func wipe(p api.Prog) {
-	for n, f := range p.Funcs {
-		for _, b := range f.Blocks {
-			for i, x := range b.Code {
-				clear(x.Args)
-				b.Code[i] = api.Ins{}
-			}
-			clear(b.Code)
-		}
-		clear(f.Kinds)
-		clear(f.Base)
-		clear(f.Blocks)
-		p.Funcs[n] = api.Func{}
-	}
-}
-
 // P10.1, and rule 5 of P1: what was answered stays as it was, whatever becomes of what was handed in, and of other answers.
 func TestAnswersStay(t *testing.T) {
 	for _, p := range few() {
 		x := sample.RoomyProgram(p)
 		first, second := ask(x, 400), ask(x, 400)
 		want := first.copied()
-		wipe(x)
+		sample.Wipe(x)
 		clear(second.trace.Events[:cap(second.trace.Events)])
 		spoil(t, second.heap)
 		if !first.same(want) || !ask(p, 400).same(want) {

@@ -100,3 +100,12 @@ func Polled(f api.Func) api.Func {
 	}
 	return f
 }
+
+// Odd is a function that may not be: it has an operation and two numbers wherever there is one, and a block without instructions.
+func Odd(op, n, m int) api.Func {
+	x := api.Ins{Op: op, D: n, A: m, B: n, N: n, M: m, Args: []int{n, m}}
+	y := api.Ins{Op: op, D: m, A: n, N: m, M: n}
+	return api.Func{Kinds: []int{n, 2, 1, 2}, Base: []int{m, n}, Params: m, Blocks: []api.Block{
+		{Code: []api.Ins{x}}, {}, {Code: []api.Ins{y, x}}, {Code: []api.Ins{x, y}},
+	}}
+}

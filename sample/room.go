@@ -100,3 +100,64 @@ func WholeHeap(h api.Heap) api.Heap {
 func spare[T any](l []T) []T {
 	return slices.Clone(l[:len(l)+1])
 }
+
+// Wipe clears all that a program has.
+func Wipe(p api.Prog) {
+	for _, f := range p.Funcs {
+		for _, b := range f.Blocks {
+			for _, x := range b.Code {
+				clear(x.Args)
+			}
+			clear(b.Code)
+		}
+		clear(f.Kinds)
+		clear(f.Base)
+		clear(f.Blocks)
+	}
+	clear(p.Funcs)
+}
+
+// Parted tells whether no two lists of a program share memory, in their spare room neither: it numbers all that they have room for, and asks whether each number stands there yet. What the program had is lost.
+func Parted(p api.Prog) bool {
+	n, parted := 0, true
+	number := func(x *int) { n, *x = n+1, n }
+	overFuncs(p.Funcs, number)
+	n = 0
+	overFuncs(p.Funcs, func(x *int) { n, parted = n+1, parted && *x == n })
+	return parted
+}
+
+// overFuncs goes to a number of each place in functions' lists, in their spare room, too.
+func overFuncs(l []api.Func, visit func(x *int)) {
+	l = l[:cap(l)]
+	for i := range l {
+		f := &l[i]
+		visit(&f.Params)
+		over(f.Kinds, visit)
+		over(f.Base, visit)
+		overBlocks(f.Blocks, visit)
+	}
+}
+
+// overBlocks does so with blocks. One without room for code gets some, so that it has a number, too.
+func overBlocks(l []api.Block, visit func(x *int)) {
+	l = l[:cap(l)]
+	for b := range l {
+		if cap(l[b].Code) == 0 {
+			l[b].Code = make([]api.Ins, 1)
+		}
+		code := l[b].Code[:cap(l[b].Code)]
+		for i := range code {
+			visit(&code[i].D)
+			over(code[i].Args, visit)
+		}
+	}
+}
+
+// over does so with numbers.
+func over(l []int, visit func(x *int)) {
+	l = l[:cap(l)]
+	for i := range l {
+		visit(&l[i])
+	}
+}
