@@ -58,15 +58,6 @@ func writtenOut() []written {
 	}
 }
 
-// laid is a function of n blocks of its own, which lead there, and of others behind these, that jump.
-func laid(l ends, n int) api.Func {
-	f := l[:n].Function()
-	for _, to := range l[n:] {
-		f.Blocks = append(f.Blocks, jumps(to[0]))
-	}
-	return f
-}
-
 // splits asks whether Critical and Split answer so.
 func splits(t *testing.T, f api.Func, edges []api.Edge, want api.Func, e api.Errno) {
 	t.Helper()
@@ -93,7 +84,7 @@ func TestWrittenOut(t *testing.T) {
 		if shape.Check(one(f)) != api.OK {
 			t.Fatalf("%v makes no program", x.l)
 		}
-		splits(t, f, edges, laid(x.split, len(x.l)), api.OK)
+		splits(t, f, edges, x.split.Split(len(x.l)), api.OK)
 	}
 }
 
@@ -103,7 +94,7 @@ func TestModel(t *testing.T) {
 	for _, p := range many() {
 		for _, f := range p.Funcs {
 			want, e := modelled(f)
-			edges := critical(endsOf(f))
+			edges := critical(sample.EndsOf(f))
 			splits(t, f, edges, want, e)
 			if e != api.OK {
 				refused++
@@ -165,7 +156,7 @@ func TestLongBlocks(t *testing.T) {
 		f.Blocks[b].Code = append(more, x.Code...)
 	}
 	want, _ := modelled(f)
-	splits(t, f, critical(endsOf(f)), want, api.OK)
+	splits(t, f, critical(sample.EndsOf(f)), want, api.OK)
 }
 
 // P13.1: of Whole, each function of many programs is split, and of none that isn't split is anything answered.
@@ -264,7 +255,7 @@ func TestNoneLeft(t *testing.T) {
 		}
 		for i, f := range p.Funcs {
 			g := q.Funcs[i]
-			if len(critical(endsOf(g))) > 0 || len(edge.Critical(g)) > 0 {
+			if len(critical(sample.EndsOf(g))) > 0 || len(edge.Critical(g)) > 0 {
 				t.Fatalf("critical edges of %s are left: %v", shown(f), edge.Critical(g))
 			}
 			leadsOn(t, f, g)

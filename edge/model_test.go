@@ -11,22 +11,6 @@ import (
 // ends has for each block what it leads to.
 type ends = sample.Ends
 
-// endsOf is what a function's blocks lead to, as their last instructions have it.
-func endsOf(f api.Func) ends {
-	var l ends
-	for _, b := range f.Blocks {
-		var to []int
-		switch x := b.Code[len(b.Code)-1]; x.Op {
-		case 21:
-			to = []int{x.N}
-		case 22:
-			to = []int{x.N, x.M}
-		}
-		l = append(l, to)
-	}
-	return l
-}
-
 // critical is the critical edges, as the words tell them: each block beside each one that it leads to.
 func critical(l ends) []api.Edge {
 	var edges []api.Edge
@@ -44,7 +28,7 @@ func critical(l ends) []api.Edge {
 
 // modelled is what Split is to answer: each block leads to where the block of its edge will stand, if that is critical.
 func modelled(f api.Func) (api.Func, api.Errno) {
-	edges := critical(endsOf(f))
+	edges := critical(sample.EndsOf(f))
 	n := len(f.Blocks)
 	if n+len(edges) > 40 {
 		return api.Func{}, 9
@@ -64,14 +48,9 @@ func modelled(f api.Func) (api.Func, api.Errno) {
 		f.Blocks = append(f.Blocks, api.Block{Code: code})
 	}
 	for _, e := range edges {
-		f.Blocks = append(f.Blocks, jumps(e.To))
+		f.Blocks = append(f.Blocks, sample.Jump(e.To))
 	}
 	return f, 0
-}
-
-// jumps is a block that does nothing but lead there.
-func jumps(to int) api.Block {
-	return api.Block{Code: []api.Ins{{Op: 21, N: to}}}
 }
 
 // one is a program of one function.

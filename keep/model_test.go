@@ -10,16 +10,21 @@ import (
 	"portolan/flow"
 	"portolan/keep"
 	"portolan/kind"
+	"portolan/point"
 	"portolan/sample"
 	"portolan/shape"
 )
 
-// many is functions of programs that may be, of which some are as layer 14 lays them.
+// many is functions of programs that may be, of which some have polls, and some are as layer 14 lays them.
 func many() []api.Func {
 	all := []api.Func{greatest()}
 	for n, p := range slices.Concat(sample.Programs(), sample.Runs()[:60]) {
-		if n%3 == 0 {
+		laid, e := point.Whole(p)
+		switch {
+		case n%3 == 0:
 			p.Funcs[0] = sample.Polled(p.Funcs[0])
+		case n%3 == 1 && e == api.OK:
+			p = laid
 		}
 		all = append(all, p.Funcs...)
 	}
@@ -88,12 +93,16 @@ func runnable() []api.Func {
 	return all
 }
 
-// P12.2: in programs that may be run, at each place of a reached block, what is kept is set, and Ders that are kept are fresh, too. Polls change nothing of that.
+// P12.2: in programs that may be run, at each place of a reached block, what is kept is set, and Ders that are kept are fresh, too. Polls, and edges that are split, change nothing of that.
 func TestBaseStays(t *testing.T) {
 	ders := 0
 	for n, f := range runnable() {
-		if n%3 == 0 {
+		laid, e := point.Lay(f)
+		switch {
+		case n%3 == 0:
 			f = sample.Polled(f)
+		case n%3 == 1 && e == api.OK:
+			f = laid
 		}
 		for _, b := range flow.Reach(f) {
 			set, fresh := kind.Set(f, b), kind.Fresh(f, b)

@@ -9,6 +9,7 @@ import (
 	"portolan/bitset"
 	"portolan/flow"
 	"portolan/live"
+	"portolan/point"
 	"portolan/sample"
 	"portolan/shape"
 )
@@ -54,12 +55,16 @@ func place(t *testing.T, f api.Func, b, i int) {
 	}
 }
 
-// many is functions of programs that may be, of which some are as layer 14 lays them.
+// many is functions of programs that may be, of which some have polls, and some are as layer 14 lays them.
 func many() []api.Func {
 	var all []api.Func
 	for n, p := range append(sample.Programs(), sample.Runs()[:100]...) {
-		if n%3 == 0 {
+		laid, e := point.Whole(p)
+		switch {
+		case n%3 == 0:
 			p.Funcs[0] = sample.Polled(p.Funcs[0])
+		case n%3 == 1 && e == api.OK:
+			p = laid
 		}
 		all = append(all, p.Funcs...)
 	}

@@ -8,6 +8,7 @@ import (
 	"portolan/api"
 	"portolan/dom"
 	"portolan/loop"
+	"portolan/point"
 	"portolan/sample"
 	"portolan/shape"
 )
@@ -184,6 +185,27 @@ func TestModel(t *testing.T) {
 		if got, want := ask(f), modelOf(l).answers(); !got.same(want) {
 			t.Fatalf("%v answers %s; want %s", l, shown(got), shown(want))
 		}
+	}
+}
+
+// P7.1: all calls, of functions as layer 14 lays them, by a model apart from the package.
+func TestLaid(t *testing.T) {
+	laid := 0
+	for n, l := range sample.Many() {
+		if n%7 > 0 {
+			continue
+		}
+		f, e := point.Lay(l.Function())
+		if e != api.OK {
+			continue
+		}
+		if got, want := ask(f), modelOf(sample.EndsOf(f)).answers(); !got.same(want) {
+			t.Fatalf("%v, laid, answers %s; want %s", l, shown(got), shown(want))
+		}
+		laid++
+	}
+	if laid < 1000 {
+		t.Errorf("%d functions alone were laid", laid)
 	}
 }
 

@@ -23,6 +23,36 @@ func (l Ends) Function() api.Func {
 	return f
 }
 
+// Split is a function as layer 13 leaves it: its first n blocks are as Function has them, and the others behind these are nothing but jumps.
+func (l Ends) Split(n int) api.Func {
+	f := l[:n].Function()
+	for _, to := range l[n:] {
+		f.Blocks = append(f.Blocks, Jump(to[0]))
+	}
+	return f
+}
+
+// Jump is a block that does nothing but lead there.
+func Jump(to int) api.Block {
+	return api.Block{Code: []api.Ins{last([]int{to})}}
+}
+
+// EndsOf is what a function's blocks lead to, as their last instructions have it. Each block has one.
+func EndsOf(f api.Func) Ends {
+	var l Ends
+	for _, b := range f.Blocks {
+		var to []int
+		switch x := b.Code[len(b.Code)-1]; x.Op {
+		case 21:
+			to = []int{x.N}
+		case 22:
+			to = []int{x.N, x.M}
+		}
+		l = append(l, to)
+	}
+	return l
+}
+
 // last is the instruction that leads to these.
 func last(to []int) api.Ins {
 	switch len(to) {
