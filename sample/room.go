@@ -14,12 +14,12 @@ func Far() []int {
 
 // Roomy is a function with spare room, which is marked, behind each list.
 func Roomy(f api.Func) api.Func {
-	f.Kinds, f.Base = room(f.Kinds, 77), room(f.Base, 77)
-	blocks := room(f.Blocks, api.Block{Code: []api.Ins{{Op: 77}}})
+	f.Kinds, f.Base = Room(f.Kinds, 77), Room(f.Base, 77)
+	blocks := Room(f.Blocks, api.Block{Code: []api.Ins{{Op: 77}}})
 	for b := range blocks {
-		code := room(blocks[b].Code, api.Ins{Op: 21, N: 77})
+		code := Room(blocks[b].Code, api.Ins{Op: 21, N: 77})
 		for i := range code {
-			code[i].Args = room(code[i].Args, 77)
+			code[i].Args = Room(code[i].Args, 77)
 		}
 		blocks[b].Code = code
 	}
@@ -42,7 +42,7 @@ func Bare(f api.Func) api.Func {
 
 // RoomyProgram is a program with spare room, which is marked, behind each list.
 func RoomyProgram(p api.Prog) api.Prog {
-	funcs := room(p.Funcs, api.Func{Params: 77})
+	funcs := Room(p.Funcs, api.Func{Params: 77})
 	for n := range funcs {
 		funcs[n] = Roomy(funcs[n])
 	}
@@ -51,26 +51,26 @@ func RoomyProgram(p api.Prog) api.Prog {
 
 // RoomyHeap is a heap with spare room, which is marked, behind each list.
 func RoomyHeap(h api.Heap) api.Heap {
-	objs := room(h.Objs, api.Obj{Refs: []int{77}, Ints: []int{77}})
+	objs := Room(h.Objs, api.Obj{Refs: []int{77}, Ints: []int{77}})
 	for i, o := range objs {
-		objs[i] = api.Obj{Refs: room(o.Refs, 77), Ints: room(o.Ints, 77)}
+		objs[i] = api.Obj{Refs: Room(o.Refs, 77), Ints: Room(o.Ints, 77)}
 	}
 	return api.Heap{Objs: objs}
 }
 
-// room is a list of its own memory, behind which x stands in spare room.
-func room[T any](l []T, x T) []T {
+// Room is a list of its own memory, behind which x stands in spare room.
+func Room[T any](l []T, x T) []T {
 	return append(slices.Clone(l), x)[:len(l)]
 }
 
 // Whole is a copy of a roomy function, with what stands in its spare room.
 func Whole(f api.Func) api.Func {
-	f.Kinds, f.Base = spare(f.Kinds), spare(f.Base)
-	blocks := spare(f.Blocks)
+	f.Kinds, f.Base = Spare(f.Kinds), Spare(f.Base)
+	blocks := Spare(f.Blocks)
 	for b := range len(blocks) - 1 {
-		code := spare(blocks[b].Code)
+		code := Spare(blocks[b].Code)
 		for i := range len(code) - 1 {
-			code[i].Args = spare(code[i].Args)
+			code[i].Args = Spare(code[i].Args)
 		}
 		blocks[b].Code = code
 	}
@@ -80,7 +80,7 @@ func Whole(f api.Func) api.Func {
 
 // WholeProgram is a copy of a roomy program, with what stands in its spare room.
 func WholeProgram(p api.Prog) api.Prog {
-	funcs := spare(p.Funcs)
+	funcs := Spare(p.Funcs)
 	for n := range len(funcs) - 1 {
 		funcs[n] = Whole(funcs[n])
 	}
@@ -89,15 +89,15 @@ func WholeProgram(p api.Prog) api.Prog {
 
 // WholeHeap is a copy of a roomy heap, with what stands in its spare room.
 func WholeHeap(h api.Heap) api.Heap {
-	objs := spare(h.Objs)
+	objs := Spare(h.Objs)
 	for i, o := range objs[:len(h.Objs)] {
-		objs[i] = api.Obj{Refs: spare(o.Refs), Ints: spare(o.Ints)}
+		objs[i] = api.Obj{Refs: Spare(o.Refs), Ints: Spare(o.Ints)}
 	}
 	return api.Heap{Objs: objs}
 }
 
-// spare is a copy of a list, and of what stands in the spare room that room made.
-func spare[T any](l []T) []T {
+// Spare is a copy of a list, and of what stands in the spare room that Room made.
+func Spare[T any](l []T) []T {
 	return slices.Clone(l[:len(l)+1])
 }
 
