@@ -176,7 +176,7 @@ func TestModel(t *testing.T) {
 			plain++
 		}
 	}
-	if len(l) < 500 || saved < 1000 || left < 100 || plain < 20 {
+	if len(l) < 1000 || saved < 1000 || left < 100 || plain < 20 {
 		t.Errorf("of %d, %d were saved, of %d some were left out, %d had none saved", len(l), saved, left, plain)
 	}
 }
